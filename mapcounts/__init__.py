@@ -1,0 +1,1 @@
+"""Told by counts: graphs, and how many maps there are into them."""

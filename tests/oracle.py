@@ -1,0 +1,129 @@
+"""What the tests hold the answers against: the document's words, gone through the long way."""
+
+from itertools import permutations, product
+
+LARGEST = 2 ** 32 - 1
+
+
+class Untouched(list):
+    """A list that fails at once when anything tries to change it, even for a while."""
+
+    def refuse(self, *args, **kwargs):
+        raise AssertionError("what was handed in was changed")
+
+    __setitem__ = __delitem__ = __iadd__ = __imul__ = refuse
+    append = extend = insert = pop = remove = clear = sort = reverse = refuse
+
+
+def arrows(k, a):
+    """The arrows of the graph of k places with number a."""
+    return {(u, v) for u in range(k) for v in range(k) if a & 2 ** (u * k + v)}
+
+
+def flat(k, a):
+    """The same, as it is handed in."""
+    return [place for arrow in sorted(arrows(k, a)) for place in arrow]
+
+
+def whole(k):
+    """The number of the graph of k places with all arrows."""
+    return 2 ** (k * k) - 1
+
+
+def numbers(k):
+    """The numbers of all graphs of k places."""
+    return range(2 ** (k * k))
+
+
+def renamed(k, a, names):
+    """The number of the graph whose place u is now called names[u]."""
+    return sum(2 ** (names[u] * k + names[v]) for u, v in arrows(k, a))
+
+
+def turned(k, a):
+    """The number of the graph with each arrow turned about."""
+    return sum(2 ** (v * k + u) for u, v in arrows(k, a))
+
+
+def same_but_for_names(k, a, b):
+    return any(renamed(k, a, names) == b for names in permutations(range(k)))
+
+
+def one_of_each(k):
+    """The least number of each graph of k places, taking those that are the same but for names as one."""
+    return [a for a in numbers(k) if a == min(renamed(k, a, names) for names in permutations(range(k)))]
+
+
+def map_counts(k, n, a):
+    """Of each graph of k places, by its number, how many maps there are into the graph (n, a)."""
+    into = arrows(n, a)
+    # A choice of images is a map from just those graphs all of whose arrows it can carry.
+    carried = [
+        sum(2 ** (u * k + v) for u in range(k) for v in range(k) if (choice[u], choice[v]) in into)
+        for choice in product(range(n), repeat=k)
+    ]
+    return [sum(1 for mask in carried if b & ~mask == 0) for b in numbers(k)]
+
+
+def told_apart(n, m, first_counts, second_counts):
+    """What differ has to answer, from map_counts of each, for 1, 2 .. places."""
+    for k in range(1, max(n, m) + 1):
+        for b, (one, two) in enumerate(zip(first_counts[k - 1], second_counts[k - 1])):
+            if one != two:
+                return [k, b, one, two]
+    return [-6]
+
+
+def counts_up_to(most, n, a):
+    return [map_counts(k, n, a) for k in range(1, most + 1)]
+
+
+def differ(n, m, a, b):
+    most = max(n, m)
+    return told_apart(n, m, counts_up_to(most, n, a), counts_up_to(most, m, b))
+
+
+def walks(n, k, a):
+    """Each row of k and 1 places, looked at by itself."""
+    there = arrows(n, a)
+    rows = product(range(n), repeat=k + 1)
+    return sum(1 for row in rows if all(pair in there for pair in zip(row, row[1:])))
+
+
+# Of each: why it is no graph, how many places, the list.
+NO_GRAPHS = [
+    ("no places", 0, []),
+    ("no places, an arrow", 0, [0, 0]),
+    ("six places", 6, []),
+    ("six places, an arrow", 6, [0, 5]),
+    ("as many places as can be handed in", LARGEST, []),
+    ("as many places, an arrow between them", LARGEST, [LARGEST - 1, LARGEST - 1]),
+    ("one number", 1, [0]),
+    ("three numbers", 2, [0, 1, 1]),
+    ("an odd count, the last one too great", 2, [0, 1, 9]),
+    ("59 numbers", 5, (flat(5, whole(5)) + [4] * 10)[:59]),
+    ("51 numbers", 5, flat(5, whole(5)) + [4]),
+    ("from a place that isn't there", 1, [1, 0]),
+    ("to a place that isn't there", 1, [0, 1]),
+    ("to a place that isn't there, of two", 2, [0, 2]),
+    ("to a place that isn't there, then a right one", 2, [0, 2, 1, 1]),
+    ("from a place that isn't there, of two", 2, [2, 0]),
+    ("a right one, then one to a place that isn't there", 3, [0, 1, 2, 3]),
+    ("a right one, then one from a place that isn't there", 3, [0, 1, 3, 2]),
+    ("from a place that isn't there, of five", 5, [5, 0]),
+    ("to a place that isn't there, of five", 5, [4, 5]),
+    ("from the greatest number", 3, [LARGEST, 0]),
+    ("to the greatest number", 3, [0, LARGEST]),
+    ("60 of the greatest number", 5, [LARGEST] * 60),
+    ("falling by the first", 2, [1, 0, 0, 1]),
+    ("falling by the first, rising by the second", 3, [1, 0, 0, 2]),
+    ("falling by the second", 2, [0, 1, 0, 0]),
+    ("falling at the end", 3, [0, 1, 1, 2, 1, 0]),
+    ("told twice", 2, [0, 1, 0, 1]),
+    ("an arrow to itself told twice", 1, [0, 0, 0, 0]),
+    ("told twice at the end", 3, [0, 1, 2, 2, 2, 2]),
+    ("told twice, another between", 3, [0, 1, 1, 2, 0, 1]),
+    ("told thirty times", 1, [0] * 60),
+    ("all arrows and the last one again", 5, flat(5, whole(5)) + [4, 4]),
+    ("all arrows and the first ones again", 5, flat(5, whole(5)) + flat(5, whole(5))[:10]),
+]

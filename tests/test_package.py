@@ -1,0 +1,73 @@
+"""The package as a whole: its interface, and that it prints, reads and imports nothing."""
+
+import ast
+import contextlib
+import inspect
+import io
+import unittest
+from pathlib import Path
+
+from mapcounts import graphs
+
+FOLDER = Path(graphs.__file__).parent
+FILES = sorted(FOLDER.glob("*.py"))
+
+# L8's names that the package may call; print only stands in __main__.py, and there is none.
+OWN_NAMES = set(
+    "len range enumerate zip min max sum abs sorted reversed int str bool list tuple dict set frozenset "
+    "isinstance ord repr any all divmod".split()
+)
+ALLOWED_METHODS = {"append", "extend", "copy", "get", "items", "index", "insert", "pop"}
+LEFT_OUT = (
+    ast.Import, ast.ImportFrom, ast.With, ast.Delete, ast.Global, ast.Nonlocal, ast.Assert, ast.Yield,
+    ast.SetComp, ast.DictComp, ast.GeneratorExp, ast.NamedExpr, ast.Starred, ast.Div, ast.Pow, ast.AnnAssign,
+)
+
+
+class Interface(unittest.TestCase):
+    def test_names_and_arguments(self):
+        for name, due in (("differ", ["n", "m", "first", "second"]), ("walks", ["n", "k", "first"])):
+            self.assertEqual(list(inspect.signature(getattr(graphs, name)).parameters), due)
+
+    def test_nothing_is_printed_or_read(self):
+        out, err = io.StringIO(), io.StringIO()
+        with contextlib.redirect_stdout(out), contextlib.redirect_stderr(err):
+            graphs.differ(3, 3, [0, 1, 0, 2], [1, 0, 2, 0])
+            graphs.differ(0, 0, [], [])
+            graphs.walks(2, 12, [0, 0, 0, 1, 1, 0])
+            graphs.walks(2, 13, [])
+        self.assertEqual((out.getvalue(), err.getvalue()), ("", ""))
+
+
+class Language(unittest.TestCase):
+    def test_files(self):
+        self.assertEqual([path.name for path in FILES], ["__init__.py", "graphs.py"])
+        for path in FILES:
+            rows = path.read_text(encoding="ascii").split("\n")
+            self.assertLessEqual(len(rows), 400, path.name)
+            for row in rows:
+                self.assertLessEqual(len(row), 120, row)
+                self.assertTrue(all(" " <= sign <= "~" for sign in row), row)
+
+    def test_nothing_that_the_rules_leave_out(self):
+        for path in FILES:
+            for node in ast.walk(ast.parse(path.read_text())):
+                self.assertNotIsInstance(node, LEFT_OUT, path.name)
+                if isinstance(node, ast.FunctionDef):
+                    self.assertLessEqual(node.end_lineno - node.lineno + 1, 40, node.name)
+                if isinstance(node, ast.ListComp):
+                    self.assertEqual(len(node.generators), 1)
+
+    def test_only_known_names_are_called(self):
+        for path in FILES:
+            tree = ast.parse(path.read_text())
+            own = {node.name for node in tree.body if isinstance(node, ast.FunctionDef)}
+            for node in ast.walk(tree):
+                if isinstance(node, ast.Call) and isinstance(node.func, ast.Name):
+                    self.assertIn(node.func.id, own | OWN_NAMES)
+                if isinstance(node, ast.Attribute):
+                    self.assertIn(node.attr, ALLOWED_METHODS)
+
+
+if __name__ == "__main__":
+    unittest.main()
