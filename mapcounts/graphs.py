@@ -6,6 +6,7 @@ NOT_TOLD_APART = -6
 
 MOST_PLACES = 5
 MOST_PLACES_OF_DIFFER = 3
+MOST_PLACES_BY_NUMBER = 3
 MOST_STEPS = 12
 
 
@@ -128,12 +129,41 @@ def one_arrow_longer(ending, arrows):
     return longer
 
 
+def longer_by(steps, ending, arrows):
+    """From how many walks end at each place, count those that go on by so many arrows more."""
+    longer = ending
+    for step in range(steps):
+        longer = one_arrow_longer(longer, arrows)
+    return longer
+
+
 def walks(n, k, first):
     """Count the walks of k arrows."""
     if not is_graph(n, first) or k > MOST_STEPS:
         return [NOT_AS_TOLD]
+    return [sum(longer_by(k, [1 for place in range(n)], pairs_of(first)))]
+
+
+def rounds(n, k, first):
+    """Count the walks of k arrows that come back."""
+    if not is_graph(n, first) or k > MOST_STEPS:
+        return [NOT_AS_TOLD]
     arrows = pairs_of(first)
-    ending = [1 for place in range(n)]
-    for step in range(k):
-        ending = one_arrow_longer(ending, arrows)
-    return [sum(ending)]
+    total = 0
+    # Counted place by place, as the counts don't keep where a walk began.
+    for home in range(n):
+        from_home = [1 if place == home else 0 for place in range(n)]
+        total = total + longer_by(k, from_home, arrows)[home]
+    return [total]
+
+
+def graph(k, a):
+    """Tell how many arrows the graph of k places with number a has, then these."""
+    # How many graphs there are is asked last: it is only small enough to count for few places.
+    if k < 1 or k > MOST_PLACES_BY_NUMBER or a >= how_many_graphs(k):
+        return [NOT_AS_TOLD]
+    arrows = arrows_by_number(k, a)
+    answer = [len(arrows)]
+    for start, end in arrows:
+        answer.extend([start, end])
+    return answer

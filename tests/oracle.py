@@ -90,6 +90,22 @@ def walks(n, k, a):
     return sum(1 for row in rows if all(pair in there for pair in zip(row, row[1:])))
 
 
+def rounds(n, k, a):
+    """Each row of k and 1 places whose last one is its first, looked at by itself."""
+    there = arrows(n, a)
+    rows = (row + row[:1] for row in product(range(n), repeat=k)) if k else ((place,) for place in range(n))
+    return sum(1 for row in rows if all(pair in there for pair in zip(row, row[1:])))
+
+
+def rounds_by_power(n, k, a):
+    """The same where the rows are too many: what stands from each place to itself in the table's power."""
+    table = [[int((u, v) in arrows(n, a)) for v in range(n)] for u in range(n)]
+    power = [[int(u == v) for v in range(n)] for u in range(n)]
+    for _ in range(k):
+        power = [[sum(row[w] * table[w][v] for w in range(n)) for v in range(n)] for row in power]
+    return sum(power[u][u] for u in range(n))
+
+
 # Of each: why it is no graph, how many places, the list.
 NO_GRAPHS = [
     ("no places", 0, []),

@@ -26,7 +26,12 @@ LEFT_OUT = (
 
 class Interface(unittest.TestCase):
     def test_names_and_arguments(self):
-        for name, due in (("differ", ["n", "m", "first", "second"]), ("walks", ["n", "k", "first"])):
+        for name, due in (
+            ("differ", ["n", "m", "first", "second"]),
+            ("walks", ["n", "k", "first"]),
+            ("rounds", ["n", "k", "first"]),
+            ("graph", ["k", "a"]),
+        ):
             self.assertEqual(list(inspect.signature(getattr(graphs, name)).parameters), due)
 
     def test_nothing_is_printed_or_read(self):
@@ -36,6 +41,10 @@ class Interface(unittest.TestCase):
             graphs.differ(0, 0, [], [])
             graphs.walks(2, 12, [0, 0, 0, 1, 1, 0])
             graphs.walks(2, 13, [])
+            graphs.rounds(2, 12, [0, 0, 0, 1, 1, 0])
+            graphs.rounds(2, 13, [])
+            graphs.graph(3, 511)
+            graphs.graph(3, 512)
         self.assertEqual((out.getvalue(), err.getvalue()), ("", ""))
 
 
