@@ -143,3 +143,55 @@ NO_GRAPHS = [
     ("all arrows and the last one again", 5, flat(5, whole(5)) + [4, 4]),
     ("all arrows and the first ones again", 5, flat(5, whole(5)) + flat(5, whole(5))[:10]),
 ]
+
+
+class WalkRefusals:
+    """What walks and rounds refuse alike; a TestCase beside it says which of them is asked."""
+
+    def test_no_graph(self):
+        for why, n, first in NO_GRAPHS:
+            for k in (0, 1, 12):
+                with self.subTest(why, k=k):
+                    self.assertEqual(self.asked(n, k, first), [-22])
+
+    def test_too_many_arrows(self):
+        for k in (13, 14, 60, 2 ** 31, LARGEST):
+            for n in range(1, 6):
+                with self.subTest(n=n, k=k):
+                    self.assertEqual(self.asked(n, k, []), [-22])
+                    self.assertEqual(self.asked(n, k, [0, 0]), [-22])
+                    self.assertEqual(self.asked(n, k, flat(n, whole(n))), [-22])
+
+    def test_no_graph_and_too_many_arrows(self):
+        for why, n, first in NO_GRAPHS:
+            for k in (13, LARGEST):
+                with self.subTest(why, k=k):
+                    self.assertEqual(self.asked(n, k, first), [-22])
+
+
+class NothingKept:
+    """What holds for each function; a TestCase beside it says which is asked, with what, and how long answers are."""
+
+    def test_what_is_handed_in_is_left_as_it_was(self):
+        for call in self.CALLS:
+            with self.subTest(call=call):
+                handed = [Untouched(value) if isinstance(value, list) else value for value in call]
+                self.assertEqual(self.asked(*handed), self.asked(*call))
+                self.assertEqual(handed, list(call))
+
+    def test_a_call_answers_the_same_again(self):
+        before = [self.asked(*call) for call in self.CALLS]
+        due = [list(answer) for answer in before]
+        for answer in before:
+            answer.append(7)
+        self.assertEqual([self.asked(*call) for call in reversed(self.CALLS)], due[::-1])
+        self.assertEqual([self.asked(*call) for call in self.CALLS], due)
+
+    def test_answers_are_lists_of_whole_numbers(self):
+        for call in self.CALLS:
+            with self.subTest(call=call):
+                answer = self.asked(*call)
+                self.assertIs(type(answer), list)
+                self.assertEqual({type(value) for value in answer}, {int})
+                self.assertEqual(len(answer), 1 if answer[0] < 0 else self.due_length(answer))
+                self.assertTrue(len(answer) == 1 or min(answer) >= 0)

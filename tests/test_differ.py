@@ -150,7 +150,8 @@ class Refusals(unittest.TestCase):
         self.assertEqual(differ(3, 3, [2, 2], [0, 0]), [-6])
 
 
-class NothingKept(unittest.TestCase):
+class NothingKept(oracle.NothingKept, unittest.TestCase):
+    asked = staticmethod(differ)
     CALLS = [
         (3, 3, [0, 1, 0, 2], [1, 0, 2, 0]),
         (3, 3, [0, 1, 1, 2, 2, 0], [0, 2, 1, 0, 2, 1]),
@@ -160,32 +161,12 @@ class NothingKept(unittest.TestCase):
         (2, 2, [0, 1, 1], [0]),
     ]
 
-    def test_what_is_handed_in_is_left_as_it_was(self):
-        for n, m, first, second in self.CALLS:
-            with self.subTest(n=n, m=m, first=first, second=second):
-                kept, other = oracle.Untouched(first), oracle.Untouched(second)
-                self.assertEqual(differ(n, m, kept, other), differ(n, m, first, second))
-                self.assertEqual((list(kept), list(other)), (first, second))
+    def due_length(self, answer):
+        return 4
 
     def test_one_list_may_be_both(self):
         for n, flat_list in ((1, [0, 0]), (3, [0, 1, 0, 2])):
             self.assertEqual(differ(n, n, flat_list, flat_list), [-6])
-
-    def test_a_call_answers_the_same_again(self):
-        before = [differ(*call) for call in self.CALLS]
-        due = [list(answer) for answer in before]
-        for answer in before:
-            answer.append(7)
-        self.assertEqual([differ(*call) for call in reversed(self.CALLS)], due[::-1])
-        self.assertEqual([differ(*call) for call in self.CALLS], due)
-
-    def test_answers_are_lists_of_whole_numbers(self):
-        for call in self.CALLS:
-            answer = differ(*call)
-            self.assertIs(type(answer), list)
-            self.assertEqual({type(value) for value in answer}, {int})
-            self.assertIn(len(answer), (1, 4))
-            self.assertEqual(len(answer) == 1, answer[0] < 0)
 
 
 if __name__ == "__main__":

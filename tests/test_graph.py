@@ -3,6 +3,7 @@
 import unittest
 
 from mapcounts.graphs import differ, graph, walks
+from tests import oracle
 from tests.oracle import LARGEST, flat, numbers, whole
 
 EVERY = [(k, a) for k in (1, 2, 3) for a in numbers(k)]
@@ -127,24 +128,12 @@ class Refusals(unittest.TestCase):
                 self.assertEqual(graph(k, a), [-22])
 
 
-class NothingKept(unittest.TestCase):
-    # Whole numbers alone are handed in, which no call can change; what can be kept is the list that is answered.
+class NothingKept(oracle.NothingKept, unittest.TestCase):
+    asked = staticmethod(graph)
     CALLS = [(3, 511), (3, 6), (2, 6), (1, 0), (1, 2), (0, 0), (4, 6), (LARGEST, LARGEST)]
 
-    def test_a_call_answers_the_same_again(self):
-        before = [graph(*call) for call in self.CALLS]
-        due = [list(answer) for answer in before]
-        for answer in before:
-            answer.append(7)
-        self.assertEqual([graph(*call) for call in reversed(self.CALLS)], due[::-1])
-        self.assertEqual([graph(*call) for call in self.CALLS], due)
-
-    def test_answers_are_lists_of_whole_numbers(self):
-        for call in self.CALLS:
-            answer = graph(*call)
-            self.assertIs(type(answer), list)
-            self.assertEqual({type(value) for value in answer}, {int})
-            self.assertTrue(answer == [-22] or min(answer) >= 0)
+    def due_length(self, answer):
+        return 1 + 2 * answer[0]
 
 
 if __name__ == "__main__":

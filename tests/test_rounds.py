@@ -4,7 +4,7 @@ import unittest
 
 from mapcounts.graphs import differ, rounds, walks
 from tests import oracle
-from tests.oracle import LARGEST, NO_GRAPHS, flat, numbers, whole
+from tests.oracle import LARGEST, flat, numbers, whole
 
 LARGER = [(n, a) for n, stride in ((4, 997), (5, 524287)) for a in range(0, 2 ** (n * n), stride)]
 
@@ -124,29 +124,12 @@ class Edges(unittest.TestCase):
         self.assertEqual((rounds(3, 2, [0, 1, 1, 0, 1, 2]), walks(3, 2, [0, 1, 1, 0, 1, 2])), ([2], [3]))
 
 
-class Refusals(unittest.TestCase):
-    def test_no_graph(self):
-        for why, n, first in NO_GRAPHS:
-            for k in (0, 1, 12):
-                with self.subTest(why, k=k):
-                    self.assertEqual(rounds(n, k, first), [-22])
-
-    def test_too_many_arrows(self):
-        for k in (13, 14, 60, 2 ** 31, LARGEST):
-            for n in range(1, 6):
-                with self.subTest(n=n, k=k):
-                    self.assertEqual(rounds(n, k, []), [-22])
-                    self.assertEqual(rounds(n, k, [0, 0]), [-22])
-                    self.assertEqual(rounds(n, k, flat(n, whole(n))), [-22])
-
-    def test_no_graph_and_too_many_arrows(self):
-        for why, n, first in NO_GRAPHS:
-            for k in (13, LARGEST):
-                with self.subTest(why, k=k):
-                    self.assertEqual(rounds(n, k, first), [-22])
+class Refusals(oracle.WalkRefusals, unittest.TestCase):
+    asked = staticmethod(rounds)
 
 
-class NothingKept(unittest.TestCase):
+class NothingKept(oracle.NothingKept, unittest.TestCase):
+    asked = staticmethod(rounds)
     CALLS = [
         (5, 12, flat(5, whole(5))),
         (2, 12, [0, 0, 0, 1, 1, 0]),
@@ -158,26 +141,8 @@ class NothingKept(unittest.TestCase):
         (5, 3, [LARGEST] * 60),
     ]
 
-    def test_what_is_handed_in_is_left_as_it_was(self):
-        for n, k, first in self.CALLS:
-            with self.subTest(n=n, k=k, first=first):
-                kept = oracle.Untouched(first)
-                self.assertEqual(rounds(n, k, kept), rounds(n, k, first))
-                self.assertEqual(list(kept), first)
-
-    def test_a_call_answers_the_same_again(self):
-        before = [rounds(*call) for call in self.CALLS]
-        due = [list(answer) for answer in before]
-        for answer in before:
-            answer.append(7)
-        self.assertEqual([rounds(*call) for call in reversed(self.CALLS)], due[::-1])
-        self.assertEqual([rounds(*call) for call in self.CALLS], due)
-
-    def test_answers_are_lists_of_one_whole_number(self):
-        for call in self.CALLS:
-            answer = rounds(*call)
-            self.assertIs(type(answer), list)
-            self.assertEqual([type(value) for value in answer], [int])
+    def due_length(self, answer):
+        return 1
 
 
 if __name__ == "__main__":

@@ -4,7 +4,7 @@ import unittest
 
 from mapcounts.graphs import walks
 from tests import oracle
-from tests.oracle import LARGEST, NO_GRAPHS, flat, numbers, whole
+from tests.oracle import flat, numbers, whole
 
 
 class Ordinary(unittest.TestCase):
@@ -71,28 +71,12 @@ class Edges(unittest.TestCase):
                 self.assertEqual(walks(3, k, flat(3, a)), walks(3, k, flat(3, oracle.turned(3, a))))
 
 
-class Refusals(unittest.TestCase):
-    def test_no_graph(self):
-        for why, n, first in NO_GRAPHS:
-            for k in (0, 1, 12):
-                with self.subTest(why, k=k):
-                    self.assertEqual(walks(n, k, first), [-22])
-
-    def test_too_many_arrows(self):
-        for k in (13, 14, 60, 2 ** 31, LARGEST):
-            for n in range(1, 6):
-                with self.subTest(n=n, k=k):
-                    self.assertEqual(walks(n, k, []), [-22])
-                    self.assertEqual(walks(n, k, flat(n, whole(n))), [-22])
-
-    def test_no_graph_and_too_many_arrows(self):
-        for why, n, first in NO_GRAPHS:
-            for k in (13, LARGEST):
-                with self.subTest(why, k=k):
-                    self.assertEqual(walks(n, k, first), [-22])
+class Refusals(oracle.WalkRefusals, unittest.TestCase):
+    asked = staticmethod(walks)
 
 
-class NothingKept(unittest.TestCase):
+class NothingKept(oracle.NothingKept, unittest.TestCase):
+    asked = staticmethod(walks)
     CALLS = [
         (5, 12, flat(5, whole(5))),
         (2, 12, [0, 0, 0, 1, 1, 0]),
@@ -103,26 +87,8 @@ class NothingKept(unittest.TestCase):
         (2, 3, [0, 1, 1]),
     ]
 
-    def test_what_is_handed_in_is_left_as_it_was(self):
-        for n, k, first in self.CALLS:
-            with self.subTest(n=n, k=k, first=first):
-                kept = oracle.Untouched(first)
-                self.assertEqual(walks(n, k, kept), walks(n, k, first))
-                self.assertEqual(list(kept), first)
-
-    def test_a_call_answers_the_same_again(self):
-        before = [walks(*call) for call in self.CALLS]
-        due = [list(answer) for answer in before]
-        for answer in before:
-            answer.append(7)
-        self.assertEqual([walks(*call) for call in reversed(self.CALLS)], due[::-1])
-        self.assertEqual([walks(*call) for call in self.CALLS], due)
-
-    def test_answers_are_lists_of_one_whole_number(self):
-        for call in self.CALLS:
-            answer = walks(*call)
-            self.assertIs(type(answer), list)
-            self.assertEqual([type(value) for value in answer], [int])
+    def due_length(self, answer):
+        return 1
 
 
 if __name__ == "__main__":
