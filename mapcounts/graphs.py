@@ -7,6 +7,7 @@ NOT_TOLD_APART = -6
 MOST_PLACES = 5
 MOST_PLACES_OF_DIFFER = 3
 MOST_PLACES_BY_NUMBER = 3
+MOST_PLACES_OF_COUNTS = 2
 MOST_STEPS = 12
 
 
@@ -49,6 +50,18 @@ def arrows_by_number(places, told):
                 arrows.append((start, end))
             rest = rest // 2
     return arrows
+
+
+def number_by_arrows(places, arrows):
+    """Give the number of the graph of so many places with these arrows, told as pairs."""
+    total = 0
+    worth = 1
+    for start in range(places):
+        for end in range(places):
+            if (start, end) in arrows:
+                total = total + worth
+            worth = worth * 2
+    return total
 
 
 def arrow_table(places, arrows):
@@ -166,4 +179,24 @@ def graph(k, a):
     answer = [len(arrows)]
     for start, end in arrows:
         answer.extend([start, end])
+    return answer
+
+
+def number(n, first):
+    """Tell the graph's number."""
+    if not is_graph(n, first):
+        return [NOT_AS_TOLD]
+    return [number_by_arrows(n, pairs_of(first))]
+
+
+def counts(n, k, first):
+    """Tell how many graphs of k places there are, then of each, by its number, how many maps into this one."""
+    if not is_graph(n, first) or k < 1 or k > MOST_PLACES_OF_COUNTS:
+        return [NOT_AS_TOLD]
+    table = arrow_table(n, pairs_of(first))
+    choices = all_choices(k, n)
+    graphs_of_k = how_many_graphs(k)
+    answer = [graphs_of_k]
+    for told in range(graphs_of_k):
+        answer.append(count_maps(arrows_by_number(k, told), choices, table))
     return answer

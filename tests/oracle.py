@@ -106,6 +106,9 @@ def rounds_by_power(n, k, a):
     return sum(power[u][u] for u in range(n))
 
 
+# Graphs of 4 and 5 places, by how many they have and their numbers: too many to go through all.
+LARGER = [(n, a) for n, stride in ((4, 997), (5, 524287)) for a in range(0, 2 ** (n * n), stride)]
+
 # Of each: why it is no graph, how many places, the list.
 NO_GRAPHS = [
     ("no places", 0, []),

@@ -31,6 +31,8 @@ class Interface(unittest.TestCase):
             ("walks", ["n", "k", "first"]),
             ("rounds", ["n", "k", "first"]),
             ("graph", ["k", "a"]),
+            ("number", ["n", "first"]),
+            ("counts", ["n", "k", "first"]),
         ):
             self.assertEqual(list(inspect.signature(getattr(graphs, name)).parameters), due)
 
@@ -45,6 +47,10 @@ class Interface(unittest.TestCase):
             graphs.rounds(2, 13, [])
             graphs.graph(3, 511)
             graphs.graph(3, 512)
+            graphs.number(3, [0, 1, 0, 2])
+            graphs.number(6, [])
+            graphs.counts(3, 2, [0, 1, 0, 2])
+            graphs.counts(3, 3, [])
         self.assertEqual((out.getvalue(), err.getvalue()), ("", ""))
 
 

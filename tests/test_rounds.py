@@ -4,9 +4,7 @@ import unittest
 
 from mapcounts.graphs import differ, rounds, walks
 from tests import oracle
-from tests.oracle import LARGEST, flat, numbers, whole
-
-LARGER = [(n, a) for n, stride in ((4, 997), (5, 524287)) for a in range(0, 2 ** (n * n), stride)]
+from tests.oracle import LARGER, LARGEST, flat, numbers, whole
 
 
 class Ordinary(unittest.TestCase):
