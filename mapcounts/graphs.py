@@ -200,3 +200,19 @@ def counts(n, k, first):
     for told in range(graphs_of_k):
         answer.append(count_maps(arrows_by_number(k, told), choices, table))
     return answer
+
+
+def gives_each(choice, images):
+    """Say whether the choice gives each of the images to some place."""
+    for image in range(images):
+        if image not in choice:
+            return False
+    return True
+
+
+def onto(n, m, first, second):
+    """Count the maps of the first into the second that give each place of the second."""
+    if not is_graph(n, first) or not is_graph(m, second):
+        return [NOT_AS_TOLD]
+    choices = [choice for choice in all_choices(n, m) if gives_each(choice, m)]
+    return [count_maps(pairs_of(first), choices, arrow_table(m, pairs_of(second)))]

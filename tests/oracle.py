@@ -1,6 +1,6 @@
 """What the tests hold the answers against: the document's words, gone through the long way."""
 
-from itertools import permutations, product
+from itertools import combinations, permutations, product
 
 LARGEST = 2 ** 32 - 1
 
@@ -104,6 +104,42 @@ def rounds_by_power(n, k, a):
     for _ in range(k):
         power = [[sum(row[w] * table[w][v] for w in range(n)) for v in range(n)] for row in power]
     return sum(power[u][u] for u in range(n))
+
+
+def maps(n, m, a, b):
+    """All maps of the graph (n, a) into the graph (m, b), in order."""
+    from_there, into = arrows(n, a), arrows(m, b)
+    choices = product(range(m), repeat=n)
+    return [choice for choice in choices if all((choice[u], choice[v]) in into for u, v in from_there)]
+
+
+def onto(n, m, a, b):
+    return sum(1 for choice in maps(n, m, a, b) if set(choice) == set(range(m)))
+
+
+def between(n, a, places):
+    """The number of the graph that has some of the places, named anew in their order, and what's between them."""
+    there, k = arrows(n, a), len(places)
+    return sum(2 ** (u * k + v) for u in range(k) for v in range(k) if (places[u], places[v]) in there)
+
+
+def parts(n, a):
+    """Of each set of places but the empty one: how many places it has, the number of what's between them."""
+    return [
+        (size, between(n, a, places))
+        for size in range(1, n + 1)
+        for places in combinations(range(n), size)
+    ]
+
+
+def path(k):
+    """The number of the path of k places, each with an arrow to the next."""
+    return sum(2 ** (u * k + u + 1) for u in range(k - 1))
+
+
+def ring(k):
+    """The number of the ring of k places: the path, and an arrow from the last place to the first."""
+    return path(k) + 2 ** ((k - 1) * k)
 
 
 # Graphs of 4 and 5 places, by how many they have and their numbers: too many to go through all.

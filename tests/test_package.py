@@ -1,9 +1,11 @@
 """The package as a whole: its interface, and that it prints, reads and imports nothing."""
 
 import ast
+import builtins
 import contextlib
 import inspect
 import io
+import re
 import unittest
 from pathlib import Path
 
@@ -11,6 +13,8 @@ from mapcounts import graphs
 
 FOLDER = Path(graphs.__file__).parent
 FILES = sorted(FOLDER.glob("*.py"))
+
+README = FOLDER.parent / "README.md"
 
 # L8's names that the package may call; print only stands in __main__.py, and there is none.
 OWN_NAMES = set(
@@ -21,6 +25,11 @@ ALLOWED_METHODS = {"append", "extend", "copy", "get", "items", "index", "insert"
 LEFT_OUT = (
     ast.Import, ast.ImportFrom, ast.With, ast.Delete, ast.Global, ast.Nonlocal, ast.Assert, ast.Yield,
     ast.SetComp, ast.DictComp, ast.GeneratorExp, ast.NamedExpr, ast.Starred, ast.Div, ast.Pow, ast.AnnAssign,
+)
+# L17's words that stand nowhere.
+WORDS_LEFT_OUT = set(
+    "type typing typing_extensions enum Enum IntEnum StrEnum Flag IntFlag Generic Protocol ABC ABCMeta namedtuple "
+    "NamedTuple TypedDict TYPE_CHECKING abstractmethod register mro elements open input".split()
 )
 
 
@@ -33,8 +42,20 @@ class Interface(unittest.TestCase):
             ("graph", ["k", "a"]),
             ("number", ["n", "first"]),
             ("counts", ["n", "k", "first"]),
+            ("onto", ["n", "m", "first", "second"]),
         ):
             self.assertEqual(list(inspect.signature(getattr(graphs, name)).parameters), due)
+
+    def test_the_examples_of_the_readme(self):
+        examples = re.findall(r"^    (\w+)\((.*)\) +# (\[.*\])$", README.read_text(), re.MULTILINE)
+        self.assertEqual(
+            {name for name, handed, due in examples},
+            {"differ", "walks", "rounds", "graph", "number", "counts", "onto"},
+        )
+        for name, handed, due in examples:
+            with self.subTest(name=name, handed=handed):
+                answer = getattr(graphs, name)(*ast.literal_eval(f"({handed},)"))
+                self.assertEqual(answer, ast.literal_eval(due))
 
     def test_nothing_is_printed_or_read(self):
         out, err = io.StringIO(), io.StringIO()
@@ -51,6 +72,8 @@ class Interface(unittest.TestCase):
             graphs.number(6, [])
             graphs.counts(3, 2, [0, 1, 0, 2])
             graphs.counts(3, 3, [])
+            graphs.onto(3, 2, [0, 1], [0, 1])
+            graphs.onto(0, 6, [], [])
         self.assertEqual((out.getvalue(), err.getvalue()), ("", ""))
 
 
@@ -72,6 +95,18 @@ class Language(unittest.TestCase):
                     self.assertLessEqual(node.end_lineno - node.lineno + 1, 40, node.name)
                 if isinstance(node, ast.ListComp):
                     self.assertEqual(len(node.generators), 1)
+
+    def test_words_and_names(self):
+        for path in FILES:
+            source = path.read_text()
+            self.assertEqual(set(re.findall(r"\w+", source)) & WORDS_LEFT_OUT, set(), path.name)
+            for node in ast.walk(ast.parse(source)):
+                bound = getattr(node, "arg", None) or getattr(node, "name", None)
+                if isinstance(node, ast.Name) and isinstance(node.ctx, ast.Store):
+                    bound = node.id
+                if bound:
+                    self.assertRegex(bound, r"^[A-Za-z][A-Za-z0-9_]*$")
+                    self.assertNotIn(bound, dir(builtins))
 
     def test_only_known_names_are_called(self):
         for path in FILES:
